@@ -10,33 +10,18 @@ import (
 	"seesaw/api"
 	"seesaw/code"
 	"seesaw/expr"
+	"seesaw/sample"
 )
 
-// lit, local and got are expressions without Args; of is one of two.
-func lit(n int64) api.Expr   { return api.Expr{Op: api.Lit, N: n} }
-func local(n int64) api.Expr { return api.Expr{Op: api.Local, N: n} }
-func got(n int64) api.Expr   { return api.Expr{Op: api.Got, N: n} }
-func of(op uint8, a, b api.Expr) api.Expr {
-	return api.Expr{Op: op, Args: []api.Expr{a, b}}
-}
-
-// A statement of each Kind; block is a list of some, or of nothing.
-func set(to int, a api.Expr) api.Stmt            { return api.Stmt{Kind: api.Set, To: to, A: a} }
-func read(to int, a api.Expr) api.Stmt           { return api.Stmt{Kind: api.Read, To: to, A: a} }
-func write(a, b api.Expr) api.Stmt               { return api.Stmt{Kind: api.Write, A: a, B: b} }
-func loop(a api.Expr, body ...api.Stmt) api.Stmt { return api.Stmt{Kind: api.Loop, A: a, Body: body} }
-func retry() api.Stmt                            { return api.Stmt{Kind: api.Retry} }
-func leave(a api.Expr) api.Stmt                  { return api.Stmt{Kind: api.Return, A: a} }
-func block(s ...api.Stmt) []api.Stmt             { return append([]api.Stmt{}, s...) }
-func either(a api.Expr, body, other []api.Stmt) api.Stmt {
-	return api.Stmt{Kind: api.If, A: a, Body: body, Else: other}
-}
-func orElse(body, other []api.Stmt) api.Stmt {
-	return api.Stmt{Kind: api.OrElse, Body: body, Else: other}
-}
-
-// retries are so many of them.
-func retries(many int) []api.Stmt { return slices.Repeat(block(retry()), many) }
+// Short names of what is made for tests.
+var (
+	lit, local, got, of = sample.Lit, sample.Local, sample.Got, sample.Of
+	set, read, write    = sample.Set, sample.Read, sample.Write
+	either, loop        = sample.If, sample.Loop
+	retry, orElse       = sample.Retry, sample.OrElse
+	leave, block        = sample.Return, sample.Block
+	retries, costing    = sample.Retries, sample.Costing
+)
 
 // plain are statements of each Kind, with just what it asks, and nothing in their blocks.
 func plain() []api.Stmt {
@@ -69,15 +54,6 @@ func nest(deep int, in []api.Stmt, which func(at int) int) []api.Stmt {
 		in = block(wraps()[which(at)](in))
 	}
 	return in
-}
-
-// costing is a block of just this cost, of few statements.
-func costing(cost int) []api.Stmt {
-	if cost < api.MaxTurns {
-		return retries(cost)
-	}
-	in := costing((cost - 1) / api.MaxTurns)
-	return append(retries((cost-1)%api.MaxTurns), loop(lit(1), in...))
 }
 
 // sized is an expression of so many expressions (an odd number), so many in a row at most.
@@ -234,66 +210,12 @@ func shown(tx []api.Stmt) string {
 	return b.String()
 }
 
-// noise are numbers by a short rule, unlike for unlike seeds.
-func noise(seed uint64) func(below int) int {
-	x := seed*2 + 1
-	return func(below int) int {
-		x = x*6364136223846793005 + 1442695040888963407
-		return int(x >> 33 % uint64(below))
-	}
-}
-
-// someExpr is an expression that may be in the transaction n, so many in a row at most.
-func someExpr(next func(int) int, n, most int) api.Expr {
-	if most == 1 || next(3) == 0 {
-		switch next(3) {
-		case 0:
-			return lit(int64(next(7) - 3))
-		case 1:
-			if n > 0 {
-				return got(int64(next(n)))
-			}
-		}
-		return local(int64(next(api.MaxLocals)))
-	}
-	return of(api.Add+uint8(next(5)), someExpr(next, n, most-1), someExpr(next, n, most-1))
-}
-
-// someBlock is a block of shaped statements of the transaction n, so many in a row and so deep at most.
-func someBlock(next func(int) int, n, many, deep int) []api.Stmt {
-	var l []api.Stmt
-	for range next(many + 1) {
-		s := api.Stmt{Kind: api.Set + uint8(next(8))}
-		what, _ := asked(s.Kind)
-		for _, letter := range what {
-			switch letter {
-			case 'T':
-				s.To = next(api.MaxLocals)
-			case 'A':
-				s.A = someExpr(next, n, 1+next(4))
-			case 'B':
-				s.B = someExpr(next, n, 1+next(4))
-			case 'b':
-				if deep > 1 {
-					s.Body = someBlock(next, n, many, deep-1)
-				}
-			case 'e':
-				if deep > 1 {
-					s.Else = someBlock(next, n, many, deep-1)
-				}
-			}
-		}
-		l = append(l, s)
-	}
-	return l
-}
-
 // mays are many transactions that may be, as the n-th one.
 func mays(n int) [][]api.Stmt {
-	next := noise(uint64(n) + 1)
+	next := sample.Noise(uint64(n) + 1)
 	l := [][]api.Stmt{nil, {}, plain(), retries(api.MaxStmts), retries(api.MaxStmts - 1), costing(api.MaxCost), costing(api.MaxCost - 1)}
 	for len(l) < 300 {
-		tx := someBlock(next, n, 2+next(4), 1+next(api.MaxNest))
+		tx := sample.Stmts(next, n, 2+next(4), 1+next(api.MaxNest))
 		if may(tx, n) {
 			l = append(l, tx)
 		}
@@ -313,9 +235,9 @@ func odd() [][]api.Stmt {
 		{either(lit(1), retries(3), retries(4))}, {orElse(retries(3), retries(4))}, {orElse(retries(4), retries(3))},
 		{{Kind: api.Set, To: 8, A: got(6), B: local(8), Body: plain(), Else: plain()}},
 	}
-	next := noise(77)
+	next := sample.Noise(77)
 	for range 100 {
-		tx := append(someBlock(next, 3, 3, 4), plain()[next(8)], retry(), plain()[next(8)])
+		tx := append(sample.Stmts(next, 3, 3, 4), plain()[next(8)], retry(), plain()[next(8)])
 		if !slices.ContainsFunc(l, func(b []api.Stmt) bool { return shown(b) == shown(tx) }) {
 			l = append(l, tx)
 		}

@@ -6,6 +6,7 @@ import (
 
 	"seesaw/api"
 	"seesaw/expr"
+	"seesaw/sample"
 )
 
 // P4.3: what may be in the transaction n comes to a value, over MaxLocals locals and n values.
@@ -92,7 +93,7 @@ func TestP4_5Back(t *testing.T) {
 			evals(t, of(api.Add, of(api.Sub, lit(x), lit(y)), lit(y)), nil, nil, x)
 		}
 	}
-	next := noise(3)
+	next := sample.Noise(3)
 	for range 1000 {
 		e, f := may(next, 3, api.MaxNest-2), may(next, 3, api.MaxNest-2)
 		locals, got := values(uint64(next(1000)), api.MaxLocals), values(uint64(next(1000)), 3)
@@ -103,7 +104,7 @@ func TestP4_5Back(t *testing.T) {
 
 // P4.5: of Less, Less turned about, and Equal just one is 1, the others 0.
 func TestP4_5One(t *testing.T) {
-	next := noise(4)
+	next := sample.Noise(4)
 	pairs := [][2]api.Expr{}
 	for _, x := range edges() {
 		for _, y := range edges() {

@@ -9,15 +9,11 @@ import (
 
 	"seesaw/api"
 	"seesaw/expr"
+	"seesaw/sample"
 )
 
-// lit, local and got are expressions without Args; of is one of two.
-func lit(n int64) api.Expr   { return api.Expr{Op: api.Lit, N: n} }
-func local(n int64) api.Expr { return api.Expr{Op: api.Local, N: n} }
-func got(n int64) api.Expr   { return api.Expr{Op: api.Got, N: n} }
-func of(op uint8, a, b api.Expr) api.Expr {
-	return api.Expr{Op: op, Args: []api.Expr{a, b}}
-}
+// Short names of what is made for tests.
+var lit, local, got, of = sample.Lit, sample.Local, sample.Got, sample.Of
 
 // operators are all Ops of two Args.
 func operators() []uint8 { return []uint8{api.Add, api.Sub, api.Mul, api.Less, api.Equal} }
@@ -51,17 +47,8 @@ func full(op uint8, most int, leaf api.Expr) api.Expr {
 	return of(op, full(op, most-1, leaf), full(op, most-1, leaf))
 }
 
-// noise are numbers by a short rule, unlike for unlike seeds.
-func noise(seed uint64) func(below int) int {
-	x := seed*2 + 1
-	return func(below int) int {
-		x = x*6364136223846793005 + 1442695040888963407
-		return int(x >> 33 % uint64(below))
-	}
-}
-
 // may is an expression that may be in the transaction n, so many in a row at most.
-func may(next func(int) int, n, most int) api.Expr {
+func may(next sample.Next, n, most int) api.Expr {
 	if most == 1 || next(4) == 0 {
 		switch next(3) {
 		case 0:
@@ -78,7 +65,7 @@ func may(next func(int) int, n, most int) api.Expr {
 
 // mays are many of them, of each transaction n.
 func mays(n int) []api.Expr {
-	next := noise(uint64(n) + 1)
+	next := sample.Noise(uint64(n) + 1)
 	var l []api.Expr
 	for i := range 600 {
 		l = append(l, may(next, n, 1+i%api.MaxNest))
@@ -88,7 +75,7 @@ func mays(n int) []api.Expr {
 
 // values are so many values, unlike for unlike seeds.
 func values(seed uint64, many int) []int64 {
-	next := noise(seed)
+	next := sample.Noise(seed)
 	var l []int64
 	for range many {
 		l = append(l, edges()[next(len(edges()))]+int64(next(5)))

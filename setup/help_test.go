@@ -1,0 +1,236 @@
+package setup_test
+
+import (
+	"fmt"
+	"math"
+	"reflect"
+	"testing"
+
+	"seesaw/api"
+	"seesaw/code"
+	"seesaw/sample"
+	"seesaw/setup"
+)
+
+// Short names of what is made for tests.
+var (
+	lit, got         = sample.Lit, sample.Got
+	set, leave       = sample.Set, sample.Return
+	orElse, block    = sample.OrElse, sample.Block
+	retries, costing = sample.Retries, sample.Costing
+)
+
+// tx is a transaction, thread are some of them.
+type (
+	tx     = []api.Stmt
+	thread = []tx
+)
+
+// of is a setup of these threads, whose numbers may be.
+func of(threads ...thread) api.Setup {
+	return api.Setup{Stripes: 1, Clock: 5, Tries: 2, Init: []int64{7, -8}, Threads: threads}
+}
+
+// empty are so many empty transactions.
+func empty(many int) thread { return make(thread, many) }
+
+// behind is a thread of one transaction, and so many others ahead of it.
+func behind(many int, last tx) thread { return append(empty(many), last) }
+
+// bad are transactions that may not be, wherever they stand.
+func bad() []tx {
+	return []tx{{{}}, {{Kind: 9}}, {set(8, lit(1))}, {leave(got(6))}, {leave(lit(1)), {Kind: api.Return}}, retries(api.MaxStmts + 1), costing(api.MaxCost + 1)}
+}
+
+// most is a setup with as much of all as there may be.
+func most() api.Setup {
+	s := api.Setup{Stripes: api.MaxVars, Clock: api.MaxClock, Tries: api.MaxTries, Init: make([]int64, api.MaxVars)}
+	for range api.MaxThreads {
+		s.Threads = append(s.Threads, thread{retries(api.MaxStmts), costing(api.MaxCost), {leave(got(1))}, nil, retries(1), {leave(got(api.MaxTx - 2))}})
+	}
+	return s
+}
+
+// rich is a setup with something everywhere.
+func rich() api.Setup {
+	first := thread{{set(1, sample.Of(api.Add, lit(1), sample.Of(api.Sub, lit(2), lit(3))))}, {orElse(retries(2), block(orElse(retries(1), nil)))}, nil}
+	return api.Setup{Stripes: 2, Clock: 50, Tries: 3, Init: []int64{4, math.MinInt64, -1}, Threads: []thread{first, {}, {retries(3), {sample.Write(lit(4), got(0)), sample.If(lit(9), retries(1), retries(2))}}}}
+}
+
+// mays are setups that may be, some at the limits.
+func mays() []api.Setup {
+	l := []api.Setup{{Stripes: 1, Tries: 1, Init: []int64{0}}, of(), of(nil), of(thread{}, thread{nil}, nil), most(), rich()}
+	next := sample.Noise(6)
+	for range 200 {
+		l = append(l, sample.Setup(next))
+	}
+	return l
+}
+
+// pick is one of several.
+func pick[T any](next sample.Next, l ...T) T { return l[next(len(l))] }
+
+// wild is a setup that may be, or not.
+func wild(next sample.Next) api.Setup {
+	s := api.Setup{Clock: pick(next, 5, 0, -1, api.MaxClock, api.MaxClock+1), Tries: pick(next, 5, 1, 0, api.MaxTries, api.MaxTries+1)}
+	s.Init = make([]int64, pick(next, 1, 2, 3, 0, api.MaxVars, api.MaxVars+1))
+	for v := range s.Init {
+		s.Init[v] = int64(next(3) - 1)
+	}
+	s.Stripes = pick(next, 1, len(s.Init), len(s.Init), 0, -1, len(s.Init)+1, 2)
+	for range next(api.MaxThreads + 2) {
+		l := thread{}
+		for n := range next(api.MaxTx + 2) {
+			l = append(l, sample.Stmts(next, n+next(16)/15, 3, next(4)))
+		}
+		s.Threads = append(s.Threads, l)
+	}
+	return s
+}
+
+// odd are setups of any kind, that may be or not, no two of them the same.
+func odd() []api.Setup {
+	l := []api.Setup{
+		{}, {Stripes: 1}, {Stripes: -1}, {Clock: 1}, {Clock: -1}, {Tries: 1}, {Tries: -1}, {Stripes: 1 << 32}, {Clock: 1 << 32}, {Tries: 1 << 32},
+		{Init: []int64{0}}, {Init: []int64{1}}, {Init: []int64{0, 0}}, {Init: []int64{1, 0}}, {Init: []int64{0, 1}}, {Init: []int64{1 << 32}}, {Init: make([]int64, 33)},
+		{Threads: []thread{{}}}, {Threads: []thread{{}, {}}}, {Threads: []thread{{{}}}}, {Threads: []thread{{{}, {}}}}, {Threads: []thread{{{}}, {}}}, {Threads: []thread{{}, {{}}}},
+		{Threads: []thread{{{}}, {{}}}}, {Threads: []thread{{{{}}}}}, {Threads: []thread{{{{}, {}}}}}, {Threads: []thread{{{{}}, {}}}}, {Threads: []thread{{{}, {{}}}}}, {Threads: []thread{{{{}}}, {}}},
+		{Threads: []thread{{{{}}}, {{{}}}}}, {Threads: []thread{{{{}}, {{}}}}}, {Threads: []thread{{{{Kind: 9}}}}}, {Threads: make([]thread, 7)}, {Threads: []thread{empty(7)}}, rich(), most(),
+	}
+	for _, b := range bad() {
+		l = append(l, of(thread{b}), of(thread{retries(1)}, thread{retries(1), b}))
+	}
+	is := map[string]bool{}
+	for _, s := range l {
+		is[shown(s)] = true
+	}
+	for next := sample.Noise(66); len(l) < 250; {
+		if s := wild(next); !is[shown(s)] {
+			is[shown(s)] = true
+			l = append(l, s)
+		}
+	}
+	return l
+}
+
+// may is, by the chapter's words one behind the other, whether a setup may be.
+func may(s api.Setup) bool {
+	vars := len(s.Init)
+	is := vars >= 1 && vars <= 32 && s.Stripes >= 1 && s.Stripes <= vars && s.Clock >= 0 && s.Clock <= 1<<40 && s.Tries >= 1 && s.Tries <= 1000 && len(s.Threads) <= 6
+	for _, l := range s.Threads {
+		is = is && len(l) <= 6
+		for n, x := range l {
+			is = is && code.May(x, n)
+		}
+	}
+	return is
+}
+
+// costliest is the greatest cost of all transactions.
+func costliest(s api.Setup) int {
+	cost := 0
+	for _, l := range s.Threads {
+		for _, x := range l {
+			cost = max(cost, code.Cost(x))
+		}
+	}
+	return cost
+}
+
+// shown is a setup as a text that unlike ones have not in common; a list of nothing and no list are the same.
+func shown(s api.Setup) string { return fmt.Sprint(s) }
+
+// parts are all numbers and all lists in a thing, at any level, so that they can be made other ones.
+func parts(v reflect.Value) (numbers, lists []reflect.Value) {
+	many, at := 0, v.Field
+	switch v.Kind() {
+	case reflect.Struct:
+		many = v.NumField()
+	case reflect.Slice:
+		many, at = v.Len(), v.Index
+		lists = append(lists, v)
+	default:
+		numbers = append(numbers, v)
+	}
+	for i := range many {
+		n, l := parts(at(i))
+		numbers, lists = append(numbers, n...), append(lists, l...)
+	}
+	return numbers, lists
+}
+
+// partsOf are those of a setup.
+func partsOf(s *api.Setup) (numbers, lists []reflect.Value) {
+	return parts(reflect.ValueOf(s).Elem())
+}
+
+// add makes a number another one.
+func add(v reflect.Value, n int64) {
+	if v.CanInt() {
+		v.SetInt(v.Int() + n)
+	} else {
+		v.SetUint(v.Uint() + uint64(n))
+	}
+}
+
+// longer puts a zero, or nothing, behind a list.
+func longer(v reflect.Value) { v.Set(reflect.Append(v, reflect.Zero(v.Type().Elem()))) }
+
+// alike is the same, with lists of nothing where there is none, none where there are some of nothing, and room behind all lists.
+func alike(s api.Setup) api.Setup {
+	s = setup.Copy(s)
+	_, lists := partsOf(&s)
+	for _, v := range lists {
+		switch {
+		case v.IsNil():
+			v.Set(reflect.MakeSlice(v.Type(), 0, 3))
+		case v.Len() == 0:
+			v.SetZero()
+		default:
+			v.Set(reflect.AppendSlice(reflect.MakeSlice(v.Type(), 0, v.Len()+3), v))
+		}
+	}
+	return s
+}
+
+// allowed tells that a setup may be.
+func allowed(t testing.TB, s api.Setup) {
+	t.Helper()
+	if e := setup.Check(s); e != api.OK {
+		t.Fatalf("Check of %s: %v", shown(s), e)
+	}
+}
+
+// refused tells that a setup may not be.
+func refused(t testing.TB, s api.Setup) {
+	t.Helper()
+	if e := setup.Check(s); e != api.ErrForm {
+		t.Fatalf("Check of %s: %v", shown(s), e)
+	}
+}
+
+// checked tells that a setup may be just if this is so.
+func checked(t testing.TB, s api.Setup, is bool) {
+	t.Helper()
+	if is {
+		allowed(t, s)
+	} else {
+		refused(t, s)
+	}
+}
+
+// costs tells that the greatest cost is just this.
+func costs(t testing.TB, s api.Setup, want int) {
+	t.Helper()
+	if c := setup.Cost(s); c != want {
+		t.Fatalf("Cost of %s: %d; want %d", shown(s), c, want)
+	}
+}
+
+// same tells whether two are the same, which may be turned about.
+func same(t testing.TB, a, b api.Setup, want bool) {
+	t.Helper()
+	if setup.Same(a, b) != want || setup.Same(b, a) != want {
+		t.Fatalf("Same of %s and %s: %v, %v", shown(a), shown(b), setup.Same(a, b), setup.Same(b, a))
+	}
+}
