@@ -2,7 +2,6 @@ package setup_test
 
 import (
 	"fmt"
-	"math"
 	"reflect"
 	"testing"
 
@@ -18,6 +17,9 @@ var (
 	set, leave       = sample.Set, sample.Return
 	orElse, block    = sample.OrElse, sample.Block
 	retries, costing = sample.Retries, sample.Costing
+	of, bad          = sample.Running, sample.Bad
+	most, rich, mays = sample.Most, sample.Rich, sample.Setups
+	wild             = sample.Wild
 )
 
 // tx is a transaction, thread are some of them.
@@ -26,67 +28,11 @@ type (
 	thread = []tx
 )
 
-// of is a setup of these threads, whose numbers may be.
-func of(threads ...thread) api.Setup {
-	return api.Setup{Stripes: 1, Clock: 5, Tries: 2, Init: []int64{7, -8}, Threads: threads}
-}
-
 // empty are so many empty transactions.
 func empty(many int) thread { return make(thread, many) }
 
 // behind is a thread of one transaction, and so many others ahead of it.
 func behind(many int, last tx) thread { return append(empty(many), last) }
-
-// bad are transactions that may not be, wherever they stand.
-func bad() []tx {
-	return []tx{{{}}, {{Kind: 9}}, {set(8, lit(1))}, {leave(got(6))}, {leave(lit(1)), {Kind: api.Return}}, retries(api.MaxStmts + 1), costing(api.MaxCost + 1)}
-}
-
-// most is a setup with as much of all as there may be.
-func most() api.Setup {
-	s := api.Setup{Stripes: api.MaxVars, Clock: api.MaxClock, Tries: api.MaxTries, Init: make([]int64, api.MaxVars)}
-	for range api.MaxThreads {
-		s.Threads = append(s.Threads, thread{retries(api.MaxStmts), costing(api.MaxCost), {leave(got(1))}, nil, retries(1), {leave(got(api.MaxTx - 2))}})
-	}
-	return s
-}
-
-// rich is a setup with something everywhere.
-func rich() api.Setup {
-	first := thread{{set(1, sample.Of(api.Add, lit(1), sample.Of(api.Sub, lit(2), lit(3))))}, {orElse(retries(2), block(orElse(retries(1), nil)))}, nil}
-	return api.Setup{Stripes: 2, Clock: 50, Tries: 3, Init: []int64{4, math.MinInt64, -1}, Threads: []thread{first, {}, {retries(3), {sample.Write(lit(4), got(0)), sample.If(lit(9), retries(1), retries(2))}}}}
-}
-
-// mays are setups that may be, some at the limits.
-func mays() []api.Setup {
-	l := []api.Setup{{Stripes: 1, Tries: 1, Init: []int64{0}}, of(), of(nil), of(thread{}, thread{nil}, nil), most(), rich()}
-	next := sample.Noise(6)
-	for range 200 {
-		l = append(l, sample.Setup(next))
-	}
-	return l
-}
-
-// pick is one of several.
-func pick[T any](next sample.Next, l ...T) T { return l[next(len(l))] }
-
-// wild is a setup that may be, or not.
-func wild(next sample.Next) api.Setup {
-	s := api.Setup{Clock: pick(next, 5, 0, -1, api.MaxClock, api.MaxClock+1), Tries: pick(next, 5, 1, 0, api.MaxTries, api.MaxTries+1)}
-	s.Init = make([]int64, pick(next, 1, 2, 3, 0, api.MaxVars, api.MaxVars+1))
-	for v := range s.Init {
-		s.Init[v] = int64(next(3) - 1)
-	}
-	s.Stripes = pick(next, 1, len(s.Init), len(s.Init), 0, -1, len(s.Init)+1, 2)
-	for range next(api.MaxThreads + 2) {
-		l := thread{}
-		for n := range next(api.MaxTx + 2) {
-			l = append(l, sample.Stmts(next, n+next(16)/15, 3, next(4)))
-		}
-		s.Threads = append(s.Threads, l)
-	}
-	return s
-}
 
 // odd are setups of any kind, that may be or not, no two of them the same.
 func odd() []api.Setup {
