@@ -1,4 +1,4 @@
-// Package sample makes expressions, transactions and setups by which the layers are tested; no layer calls it.
+// Package sample makes expressions, transactions, setups and events by which the layers are tested; no layer calls it.
 package sample
 
 import (
