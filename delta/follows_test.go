@@ -7,26 +7,12 @@ import (
 	"seesaw/api"
 	"seesaw/bytes"
 	"seesaw/sample"
-	"seesaw/shape"
 )
 
 // told is a trace over these sizes whose events may be told, any of them.
 func told(next sample.Next, size api.Trace, most int) past {
 	p := past(size)
 	for e := range sample.Walk(next, size, func(e api.Event) bool { return p.may(e) }) {
-		if p = p.and(e); len(p.Events) == most {
-			break
-		}
-	}
-	return p
-}
-
-// formed is a trace over these sizes that is well-formed, any of them.
-func formed(next sample.Next, size api.Trace, most int) past {
-	p := past(size)
-	c, _ := shape.New(size.Threads, size.Vars, size.Stripes)
-	for e := range sample.Walk(next, size, func(e api.Event) bool { return c.Copy().Next(e) == api.OK }) {
-		c.Next(e)
 		if p = p.and(e); len(p.Events) == most {
 			break
 		}
@@ -43,7 +29,7 @@ func pasts(seed uint64, many int) []past {
 		if n%2 == 0 {
 			l = append(l, told(next, size, 1+next(60)))
 		} else {
-			l = append(l, formed(next, size, 1+next(60)))
+			l = append(l, past(sample.Formed(next, size, 1+next(60))))
 		}
 	}
 	return l

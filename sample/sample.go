@@ -1,4 +1,4 @@
-// Package sample makes expressions, transactions, setups and events by which the layers are tested; no layer calls it.
+// Package sample makes expressions, transactions, setups, events and traces by which the layers are tested; no layer calls it.
 package sample
 
 import (

@@ -9,24 +9,12 @@ import (
 	"seesaw/shape"
 )
 
-// taken is a trace over these sizes whose events are any of those that a checker lets come.
-func taken(next sample.Next, size api.Trace, most int) api.Trace {
-	c, _ := shape.New(size.Threads, size.Vars, size.Stripes)
-	for e := range sample.Walk(next, size, func(e api.Event) bool { return c.Copy().Next(e) == api.OK }) {
-		c.Next(e)
-		if size.Events = append(size.Events, e); len(size.Events) == most {
-			break
-		}
-	}
-	return size
-}
-
 // traces are some that a checker lets come, over any sizes.
 func traces(seed uint64, many int) []api.Trace {
 	next := sample.Noise(seed)
 	var l []api.Trace
 	for range many {
-		l = append(l, taken(next, sizes()[next(7)], 1+next(150)))
+		l = append(l, sample.Formed(next, sizes()[next(7)], 1+next(150)))
 	}
 	return l
 }
@@ -107,35 +95,11 @@ func TestP13_3(t *testing.T) {
 	}
 }
 
-// bent are traces that are nearly this one: an event is left out, comes twice, is another one, or comes ahead of the one ahead of it.
-func bent(next sample.Next, tr api.Trace) []api.Trace {
-	var l []api.Trace
-	other := func(events []api.Event) {
-		tr.Events = events
-		l = append(l, tr)
-	}
-	events := tr.Events
-	for n, e := range events {
-		other(slices.Delete(slices.Clone(events), n, n+1))
-		other(slices.Insert(slices.Clone(events), n, e))
-		bad := slices.Clone(events)
-		all := sample.Events(tr, e.Thread, e.Kind, sample.Clocks(events))
-		bad[n] = all[next(len(all))]
-		other(bad)
-		if n > 0 {
-			bad := slices.Clone(events)
-			bad[n-1], bad[n] = bad[n], bad[n-1]
-			other(bad)
-		}
-	}
-	return l
-}
-
 // P13.1, P13.3: where a trace is not well-formed what is ahead of that place is, and with the event there it is not, whatever is behind.
 func TestP13_3Bent(t *testing.T) {
 	next, refused := sample.Noise(33), 0
 	for _, tr := range traces(34, 40) {
-		for _, tr := range bent(next, tr) {
+		for _, tr := range sample.Bent(next, tr) {
 			n, e := shape.Check(tr)
 			if e == api.OK {
 				is(t, "the place of one that is well-formed", n, len(tr.Events))
@@ -162,7 +126,7 @@ func TestP13_3Bent(t *testing.T) {
 func TestP13_1CheckNext(t *testing.T) {
 	next := sample.Noise(35)
 	for _, tr := range traces(36, 40) {
-		for _, tr := range append(bent(next, tr), tr) {
+		for _, tr := range append(sample.Bent(next, tr), tr) {
 			c, place, wrong := made(t, tr), len(tr.Events), api.OK
 			for n, e := range tr.Events {
 				if wrong = c.Next(e); wrong != api.OK {
