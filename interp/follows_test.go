@@ -102,7 +102,7 @@ type parts struct{ ahead, body, other, behind []api.Stmt }
 
 // some are any such parts, of which a Body comes to Retry often.
 func (parts) some(next sample.Next, n int) parts {
-	p := parts{lively(next, n, 3, 2), lively(next, n, 3, 3), sample.Stmts(next, n, 2, 3), sample.Stmts(next, n, 2, 2)}
+	p := parts{sample.Lively(next, n, 3, 2), sample.Lively(next, n, 3, 3), sample.Stmts(next, n, 2, 3), sample.Stmts(next, n, 2, 2)}
 	switch next(3) {
 	case 0:
 		p.body = append(p.body, retry())
@@ -183,7 +183,7 @@ func TestP9_5(t *testing.T) {
 	for seed := range uint64(6000) {
 		r := run{vars: 1 + next(4), got: []int64{2, -1, 5}, answer: noise(seed)}
 		n := len(r.got)
-		p := parts{ahead: lively(next, n, 3, 2), body: sample.Stmts(next, n, 2, 2), behind: sample.Stmts(next, n, 2, 2)}
+		p := parts{ahead: sample.Lively(next, n, 3, 2), body: sample.Stmts(next, n, 2, 2), behind: sample.Stmts(next, n, 2, 2)}
 		a := of(api.Add, sample.Expr(next, n, 3), lit(int64(next(14)-3)))
 		around := arounds()[next(len(arounds()))]
 		m := begun(t, p.ahead, r.vars, r.got...)

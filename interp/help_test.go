@@ -7,7 +7,6 @@ import (
 	"testing"
 
 	"seesaw/api"
-	"seesaw/code"
 	"seesaw/expr"
 	"seesaw/interp"
 	"seesaw/sample"
@@ -381,35 +380,6 @@ type nest struct {
 	body  bool
 }
 
-// lively are statements of which few end it at once: those that would, of this block, are left out.
-func lively(next sample.Next, n, many, deep int) []api.Stmt {
-	return slices.DeleteFunc(sample.Stmts(next, n, many, deep), func(s api.Stmt) bool {
-		return s.Kind == api.Retry || s.Kind == api.Return
-	})
-}
-
-// some is any transaction that may be the n-th one: what begins it is lively, and at its end, or within, are an OrElse, or a Loop, with something in it.
-func some(next sample.Next, n int) []api.Stmt {
-	for {
-		tx := lively(next, n, 4, 3)
-		body := lively(next, n, 4, 3)
-		switch next(4) {
-		case 0:
-			body = append(body, retry())
-		case 1:
-			body = append(body, either(local(int64(next(3))), block(retry()), nil))
-		}
-		tx = append(tx, orElse(body, lively(next, n, 3, 3)))
-		if next(2) == 0 {
-			tx = block(loop(of(api.Add, lit(int64(next(5))), local(int64(next(3)))), tx...))
-		}
-		tx = append(tx, sample.Stmts(next, n, 3, 2)...)
-		if code.May(tx, n) {
-			return tx
-		}
-	}
-}
-
 // run is a transaction with all that it needs.
 type run struct {
 	tx     []api.Stmt
@@ -434,7 +404,7 @@ func runs(seed uint64, many int) []run {
 		if next(4) == 0 {
 			r.tx = sample.Tx(next, n)
 		} else {
-			r.tx = some(next, n)
+			r.tx = sample.Busy(next, n)
 		}
 		if next(2) == 0 {
 			r.answer = memory(uint64(i))

@@ -331,25 +331,6 @@ func TestR1Stays(t *testing.T) {
 	}
 }
 
-// spoil has each statement, and each expression, of a transaction be another one.
-func spoil(tx []api.Stmt) {
-	for i, s := range tx {
-		spoil(s.Body)
-		spoil(s.Else)
-		for _, e := range []api.Expr{s.A, s.B} {
-			spoilExpr(e)
-		}
-		tx[i] = leave(lit(-99))
-	}
-}
-
-func spoilExpr(e api.Expr) {
-	for i, a := range e.Args {
-		spoilExpr(a)
-		e.Args[i] = lit(-99)
-	}
-}
-
 // R1: a machine, and its copy, go on as they would where what New was handed is changed later, at once or in the middle.
 func TestR1Own(t *testing.T) {
 	for i, r := range runs(51, 600) {
@@ -359,7 +340,7 @@ func TestR1Own(t *testing.T) {
 		at := i % len(l)
 		over(t, m, l[:at], r.answer)
 		c := m.Copy()
-		spoil(tx)
+		sample.Spoil(tx)
 		for n := range values {
 			values[n] = -99
 		}

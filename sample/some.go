@@ -1,6 +1,8 @@
 package sample
 
 import (
+	"slices"
+
 	"seesaw/api"
 	"seesaw/code"
 )
@@ -86,6 +88,54 @@ func Tx(next Next, n int) []api.Stmt {
 		tx = tx[:len(tx)-1]
 	}
 	return tx
+}
+
+// Lively are statements as Stmts are, but for those, of this block, that would end it at once.
+func Lively(next Next, n, many, deep int) []api.Stmt {
+	return slices.DeleteFunc(Stmts(next, n, many, deep), func(s api.Stmt) bool {
+		return s.Kind == api.Retry || s.Kind == api.Return
+	})
+}
+
+// Busy is a transaction that may be the n-th one, and does much: what begins it is lively, and behind that, perhaps in a Loop, is an OrElse with something in it, whose Body comes to Retry often.
+func Busy(next Next, n int) []api.Stmt {
+	for {
+		tx := Lively(next, n, 4, 3)
+		body := Lively(next, n, 4, 3)
+		switch next(4) {
+		case 0:
+			body = append(body, Retry())
+		case 1:
+			body = append(body, If(Local(int64(next(3))), Block(Retry()), nil))
+		}
+		tx = append(tx, OrElse(body, Lively(next, n, 3, 3)))
+		if next(2) == 0 {
+			tx = Block(Loop(Of(api.Add, Lit(int64(next(5))), Local(int64(next(3)))), tx...))
+		}
+		tx = append(tx, Stmts(next, n, 3, 2)...)
+		if code.May(tx, n) {
+			return tx
+		}
+	}
+}
+
+// Spoil has each statement, and each expression, of a transaction be another one.
+func Spoil(tx []api.Stmt) {
+	for i, s := range tx {
+		Spoil(s.Body)
+		Spoil(s.Else)
+		spoil(s.A)
+		spoil(s.B)
+		tx[i] = Return(Lit(-99))
+	}
+}
+
+// spoil does so with an expression's expressions.
+func spoil(e api.Expr) {
+	for i, a := range e.Args {
+		spoil(a)
+		e.Args[i] = Lit(-99)
+	}
 }
 
 // Setup is a setup that may be.
